@@ -51,7 +51,7 @@ func check(t *testing.T, what string, got, want any) {
 	}
 }
 
-func TestKindsAndLimits(t *testing.T) {
+func TestKinds(t *testing.T) {
 	check(t, "the kinds", []int{Write, Read, Flush, Crash}, []int{1, 2, 3, 4})
 }
 
@@ -365,7 +365,7 @@ func (m *model) image() []byte {
 	return b
 }
 
-// randomOps are mostly writes, so that many wait; one of eight things is wrong.
+// randomOps are mostly writes, so that many wait; here and there one is wrong.
 func randomOps(r *rand.Rand, blocks, n int) []api.DiskOp {
 	var ops []api.DiskOp
 	for range n {
@@ -453,8 +453,7 @@ func TestP3_2BehindACrash(t *testing.T) {
 	}
 }
 
-// TestP3_2Nothing, TestP3_2All: the two ends of what a crash may leave.
-func TestP3_2Nothing(t *testing.T) {
+func TestP3_2AllLost(t *testing.T) {
 	d, _ := Load(append(full(1), full(2)...))
 	d.Write(0, full(3))
 	d.Write(1, full(4))
@@ -462,7 +461,7 @@ func TestP3_2Nothing(t *testing.T) {
 	check(t, "all lost", d.Image(), append(full(1), full(2)...))
 }
 
-func TestP3_2All(t *testing.T) {
+func TestP3_2KeptAndTorn(t *testing.T) {
 	d, _ := Load(append(full(1), full(2)...))
 	d.Write(0, full(3))
 	d.Write(1, full(4))
